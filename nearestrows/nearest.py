@@ -2,6 +2,7 @@
 
 REFUSAL = -22
 MOST_QUESTIONS = 5
+MOST_JUDGES = 15
 
 
 def questions_fit(m):
@@ -20,6 +21,20 @@ def row_fits(m, row):
     return row < row_count(m)
 
 
+def rules_fit(m, ok):
+    none_twice = len(set(ok)) == len(ok)
+    return len(ok) > 0 and none_twice and all([row_fits(m, row) for row in ok])
+
+
+def judges_fit(ok, v):
+    return 1 <= len(v) <= MOST_JUDGES and all([row in ok for row in v])
+
+
+def panel_fits(m, ok, v):
+    # m is asked first: row_fits may only be asked of an m that fits.
+    return questions_fit(m) and rules_fit(m, ok) and judges_fit(ok, v)
+
+
 def answer_to(row, q):
     return (row >> q) & 1
 
@@ -28,9 +43,20 @@ def how_far(m, x, y):
     return len([q for q in range(m) if answer_to(x, q) != answer_to(y, q)])
 
 
+def far_in_all(m, row, v):
+    return sum([how_far(m, row, said) for said in v])
+
+
 def far(m, x, y):
     """On how many of m questions rows x and y differ."""
     # m is asked first: row_fits may only be asked of an m that fits.
     if not questions_fit(m) or not row_fits(m, x) or not row_fits(m, y):
         return [REFUSAL]
     return [how_far(m, x, y)]
+
+
+def total(m, r, ok, v):
+    """How far row r is in all from what the judges say; r itself needn't be a row that may stand."""
+    if not panel_fits(m, ok, v) or not row_fits(m, r):
+        return [REFUSAL]
+    return [far_in_all(m, r, v)]

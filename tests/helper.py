@@ -18,3 +18,13 @@ class Answers:
 def bits_apart(x, y):
     """How far two rows are, counted another way than the program counts it."""
     return bin(x ^ y).count("1")
+
+
+class Untouchable(list):
+    """A list that fails as soon as it is changed, even if it were put back after."""
+
+    def refuse(self, *arguments, **named):
+        raise AssertionError("a list that was handed in is changed")
+
+    __setitem__ = __delitem__ = __iadd__ = __imul__ = refuse
+    append = clear = extend = insert = pop = remove = reverse = sort = refuse

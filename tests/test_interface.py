@@ -12,10 +12,13 @@ from nearestrows import nearest
 PACKAGE = pathlib.Path(nearest.__file__).parent
 ARGUMENTS = {
     "far": ["m", "x", "y"],
+    "total": ["m", "r", "ok", "v"],
 }
 CALLS = [
     ("far", (3, 6, 3)),
     ("far", (0, 6, 3)),
+    ("total", (3, 6, [1, 2, 7], [2, 7, 7])),
+    ("total", (3, 6, [1, 2, 7], [2, 7, 3])),
 ]
 
 
