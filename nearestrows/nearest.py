@@ -60,3 +60,11 @@ def total(m, r, ok, v):
     if not panel_fits(m, ok, v) or not row_fits(m, r):
         return [REFUSAL]
     return [far_in_all(m, r, v)]
+
+
+def nearest(m, ok, v):
+    """How far the rows that may stand and are nearest in all are, then these rows, rising."""
+    if not panel_fits(m, ok, v):
+        return [REFUSAL]
+    least = min([far_in_all(m, row, v) for row in ok])
+    return [least] + [row for row in sorted(ok) if far_in_all(m, row, v) == least]

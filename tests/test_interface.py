@@ -13,12 +13,15 @@ PACKAGE = pathlib.Path(nearest.__file__).parent
 ARGUMENTS = {
     "far": ["m", "x", "y"],
     "total": ["m", "r", "ok", "v"],
+    "nearest": ["m", "ok", "v"],
 }
 CALLS = [
     ("far", (3, 6, 3)),
     ("far", (0, 6, 3)),
     ("total", (3, 6, [1, 2, 7], [2, 7, 7])),
     ("total", (3, 6, [1, 2, 7], [2, 7, 3])),
+    ("nearest", (3, [1, 2, 7], [2, 7, 7])),
+    ("nearest", (3, [1, 2, 7], [2, 7, 3])),
 ]
 
 

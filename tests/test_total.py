@@ -2,34 +2,7 @@ import itertools
 import unittest
 
 from nearestrows.nearest import far, total
-from tests.helper import Answers, HUGE, REFUSED, Untouchable, bits_apart
-
-
-def together(r, v):
-    return sum(bits_apart(r, said) for said in v)
-
-
-def the_fewer(m, v):
-    fewer = 0
-    for q in range(m):
-        yes = sum(1 for said in v if said & 2 ** q)
-        fewer += min(yes, len(v) - yes)
-    return fewer
-
-
-def majorities_row(m, v):
-    return sum(2 ** q for q in range(m) if 2 * sum(1 for said in v if said & 2 ** q) > len(v))
-
-
-def panels():
-    """Panels of each m: ok in a shuffled order, judges from 1 to 15, several saying the same."""
-    for m in range(1, 6):
-        rows = 2 ** m
-        for size in sorted({1, 2, rows // 2, rows - 1, rows} - {0}):
-            for step in (1, 3, 5):
-                ok = [(7 + step * k) % rows for k in range(size)]
-                for judges in (1, 2, 3, 4, 7, 14, 15):
-                    yield m, ok, [ok[(step * k * k + k // 2) % size] for k in range(judges)]
+from tests.helper import Answers, HUGE, REFUSED, Untouchable, majorities_row, panels, the_fewer, together
 
 
 class TotalOrdinary(Answers, unittest.TestCase):
