@@ -47,6 +47,15 @@ def far_in_all(m, row, v):
     return sum([how_far(m, row, said) for said in v])
 
 
+def fewer_on(q, v):
+    yes = sum([answer_to(said, q) for said in v])
+    return min(yes, len(v) - yes)
+
+
+def fewer_in_all(m, v):
+    return sum([fewer_on(q, v) for q in range(m)])
+
+
 def far(m, x, y):
     """On how many of m questions rows x and y differ."""
     # m is asked first: row_fits may only be asked of an m that fits.
@@ -68,3 +77,12 @@ def nearest(m, ok, v):
         return [REFUSAL]
     least = min([far_in_all(m, row, v) for row in ok])
     return [least] + [row for row in sorted(ok) if far_in_all(m, row, v) == least]
+
+
+def low(m, ok, v):
+    """The fewer, below which no row is in all, then 1 if some row that may stand is just so far, else 0."""
+    if not panel_fits(m, ok, v):
+        return [REFUSAL]
+    fewer = fewer_in_all(m, v)
+    reached = fewer in [far_in_all(m, row, v) for row in ok]
+    return [fewer, 1 if reached else 0]

@@ -50,6 +50,16 @@ def panels():
                     yield m, ok, [ok[(step * k * k + k // 2) % size] for k in range(judges)]
 
 
+def small_panels():
+    """All rules of one and two questions, in every order, with all that up to four judges may say."""
+    for m in (1, 2):
+        for size in range(1, 2 ** m + 1):
+            for ok in itertools.permutations(range(2 ** m), size):
+                for judges in (1, 2, 3, 4):
+                    for v in itertools.product(ok, repeat=judges):
+                        yield m, list(ok), list(v)
+
+
 class Untouchable(list):
     """A list that fails as soon as it is changed, even if it were put back after."""
 
@@ -112,10 +122,17 @@ class PanelCall(Answers):
                     self.assert_refused(m, ok, [0])
                 self.assert_refused(m, [wrong], [wrong])
 
-    def test_ok_of_forty_numbers(self):
-        self.assert_refused(5, list(range(40)), [0])
-        self.assert_refused(5, [k % 32 for k in range(40)], [0])
-        self.assert_refused(5, [0] * 40, [0])
+    def test_lists_of_forty_numbers(self):
+        for forty in [list(range(40)), [k % 32 for k in range(40)], [0] * 40]:
+            self.assert_refused(5, forty, [0])
+            self.assert_refused(5, list(range(32)), forty)
+            self.assert_refused(5, forty, forty)
+
+    def test_ok_in_any_order(self):
+        for m, ok, v in panels():
+            for order in (sorted(ok), sorted(ok, reverse=True), ok[::-1]):
+                with self.subTest(m=m, ok=order, v=v):
+                    self.assert_answer(self.ask(m, order, v), self.ask(m, ok, v))
 
     def test_judges_are_1_to_15(self):
         for judges in range(1, 16):

@@ -2,7 +2,7 @@ import itertools
 import unittest
 
 from nearestrows.nearest import nearest, total
-from tests.helper import Answers, PanelCall, REFUSED, majorities_row, panels, the_fewer, together
+from tests.helper import Answers, PanelCall, REFUSED, majorities_row, panels, small_panels, the_fewer, together
 
 
 def nearest_by_sorting(ok, v):
@@ -85,18 +85,14 @@ class NearestOrdinary(Answers, unittest.TestCase):
                 self.assert_answer(nearest(3, [7, 5, 6, 3, 0], list(v)), [6, 6])
 
     def test_all_small_panels(self):
-        for m in (1, 2):
-            for size in range(1, 2 ** m + 1):
-                for ok in itertools.permutations(range(2 ** m), size):
-                    for judges in (1, 2, 3, 4):
-                        for v in itertools.product(ok, repeat=judges):
-                            self.assert_answer(nearest(m, list(ok), list(v)), nearest_by_sorting(ok, v))
+        for m, ok, v in small_panels():
+            with self.subTest(m=m, ok=ok, v=v):
+                self.assert_answer(nearest(m, ok, v), nearest_by_sorting(ok, v))
 
     def test_larger_panels(self):
         for m, ok, v in panels():
-            for order in (ok, sorted(ok), sorted(ok, reverse=True)):
-                with self.subTest(m=m, ok=order, v=v):
-                    self.assert_answer(nearest(m, order, v), nearest_by_sorting(ok, v))
+            with self.subTest(m=m, ok=ok, v=v):
+                self.assert_answer(nearest(m, ok, v), nearest_by_sorting(ok, v))
 
 
 class NearestCorners(Answers, unittest.TestCase):
@@ -135,12 +131,6 @@ class NearestCorners(Answers, unittest.TestCase):
     def test_fifteen_judges(self):
         self.assert_answer(nearest(5, [31, 0], [31] * 7 + [0] * 8), [35, 0])
         self.assert_answer(nearest(5, [0, 31, 7], [31] * 5 + [0] * 5 + [7] * 5), [25, 7])
-
-    def test_forty_numbers(self):
-        forty = [k % 32 for k in range(40)]
-        self.assert_answer(nearest(5, forty, [0]), REFUSED)
-        self.assert_answer(nearest(5, [0, 1], [0] * 40), REFUSED)
-        self.assert_answer(nearest(5, forty, forty), REFUSED)
 
     def test_lists_that_the_caller_changed_since(self):
         ok, v = [7, 1, 2], [7, 2, 7]
