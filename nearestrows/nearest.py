@@ -47,6 +47,16 @@ def far_in_all(m, row, v):
     return sum([how_far(m, row, said) for said in v])
 
 
+def far_at_worst(m, row, v):
+    return max([how_far(m, row, said) for said in v])
+
+
+def least_far(ok, fars):
+    """The least of fars, then the rows that are so far, rising; fars has one for each row of ok, in its order."""
+    least = min(fars)
+    return [least] + sorted([row for row, so_far in zip(ok, fars) if so_far == least])
+
+
 def fewer_on(q, v):
     yes = sum([answer_to(said, q) for said in v])
     return min(yes, len(v) - yes)
@@ -75,8 +85,7 @@ def nearest(m, ok, v):
     """How far the rows that may stand and are nearest in all are, then these rows, rising."""
     if not panel_fits(m, ok, v):
         return [REFUSAL]
-    least = min([far_in_all(m, row, v) for row in ok])
-    return [least] + [row for row in sorted(ok) if far_in_all(m, row, v) == least]
+    return least_far(ok, [far_in_all(m, row, v) for row in ok])
 
 
 def low(m, ok, v):
@@ -86,3 +95,10 @@ def low(m, ok, v):
     fewer = fewer_in_all(m, v)
     reached = fewer in [far_in_all(m, row, v) for row in ok]
     return [fewer, 1 if reached else 0]
+
+
+def worst(m, ok, v):
+    """How far at worst the rows that may stand and are nearest at worst are, then these rows, rising."""
+    if not panel_fits(m, ok, v):
+        return [REFUSAL]
+    return least_far(ok, [far_at_worst(m, row, v) for row in ok])

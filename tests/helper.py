@@ -60,6 +60,26 @@ def small_panels():
                         yield m, list(ok), list(v)
 
 
+def small_rules(m):
+    """All rules of m questions, rising."""
+    for size in range(1, 2 ** m + 1):
+        yield from itertools.combinations(range(2 ** m), size)
+
+
+def pairs_of_panels():
+    """Two panels under the same rules, together 15 judges at most."""
+    for m in (1, 2):
+        for ok in small_rules(m):
+            said = [v for n in (1, 2, 3) for v in itertools.combinations_with_replacement(ok, n)]
+            for v, other in itertools.product(said, repeat=2):
+                yield m, list(ok), list(v), list(other)
+    for m, ok, v in panels():
+        for judges in (1, 2, 4, 8):
+            for step in (1, 2, 7):
+                if len(v) + judges <= 15:
+                    yield m, ok, v, [ok[(step * k * k + 3 * k + step) % len(ok)] for k in range(judges)]
+
+
 class Untouchable(list):
     """A list that fails as soon as it is changed, even if it were put back after."""
 

@@ -2,33 +2,15 @@ import itertools
 import unittest
 
 from nearestrows.nearest import nearest, total
-from tests.helper import Answers, PanelCall, REFUSED, majorities_row, panels, small_panels, the_fewer, together
+from tests.helper import (
+    Answers, PanelCall, REFUSED, majorities_row, pairs_of_panels, panels, small_panels, the_fewer, together,
+)
 
 
 def nearest_by_sorting(ok, v):
     """What nearest answers, found another way than the program finds it."""
     ranked = sorted((together(row, v), row) for row in ok)
     return [ranked[0][0]] + [row for so_far, row in ranked if so_far == ranked[0][0]]
-
-
-def small_rules(m):
-    """All rules of m questions, rising."""
-    for size in range(1, 2 ** m + 1):
-        yield from itertools.combinations(range(2 ** m), size)
-
-
-def pairs_of_panels():
-    """Two panels under the same rules, together 15 judges at most."""
-    for m in (1, 2):
-        for ok in small_rules(m):
-            said = [v for n in (1, 2, 3) for v in itertools.combinations_with_replacement(ok, n)]
-            for v, other in itertools.product(said, repeat=2):
-                yield m, list(ok), list(v), list(other)
-    for m, ok, v in panels():
-        for judges in (1, 2, 4, 8):
-            for step in (1, 2, 7):
-                if len(v) + judges <= 15:
-                    yield m, ok, v, [ok[(step * k * k + 3 * k + step) % len(ok)] for k in range(judges)]
 
 
 def pairwise_rules(m):
