@@ -3,6 +3,7 @@
 REFUSAL = -22
 MOST_QUESTIONS = 5
 MOST_JUDGES = 15
+MOST_WEIGHT = 9
 
 
 def questions_fit(m):
@@ -35,16 +36,32 @@ def panel_fits(m, ok, v):
     return questions_fit(m) and rules_fit(m, ok) and judges_fit(ok, v)
 
 
+def weights_fit(m, w):
+    return len(w) == m and all([weight <= MOST_WEIGHT for weight in w])
+
+
 def answer_to(row, q):
     return (row >> q) & 1
 
 
+def questions_apart(m, x, y):
+    return [q for q in range(m) if answer_to(x, q) != answer_to(y, q)]
+
+
 def how_far(m, x, y):
-    return len([q for q in range(m) if answer_to(x, q) != answer_to(y, q)])
+    return len(questions_apart(m, x, y))
+
+
+def how_far_weighed(m, x, y, w):
+    return sum([w[q] for q in questions_apart(m, x, y)])
 
 
 def far_in_all(m, row, v):
     return sum([how_far(m, row, said) for said in v])
+
+
+def far_in_all_weighed(m, row, v, w):
+    return sum([how_far_weighed(m, row, said, w) for said in v])
 
 
 def far_at_worst(m, row, v):
@@ -102,3 +119,10 @@ def worst(m, ok, v):
     if not panel_fits(m, ok, v):
         return [REFUSAL]
     return least_far(ok, [far_at_worst(m, row, v) for row in ok])
+
+
+def weighed(m, ok, v, w):
+    """How far the rows that may stand and are nearest in all, weighed, are, then these rows, rising."""
+    if not panel_fits(m, ok, v) or not weights_fit(m, w):
+        return [REFUSAL]
+    return least_far(ok, [far_in_all_weighed(m, row, v, w) for row in ok])
